@@ -165,13 +165,17 @@ func isVar(v int) bool {
 	return v >= 0 && v < ProgVars
 }
 
+func isNum(n int) bool {
+	return n >= 0 && n < ProgNum
+}
+
 func isOp(op int) bool {
 	return op >= OpAdd && op <= OpLess
 }
 
 func isOpnd(o Opnd) bool {
 	if o.Var == -1 {
-		return o.Num >= 0 && o.Num < ProgNum
+		return isNum(o.Num)
 	}
 	return isVar(o.Var) && o.Num == 0
 }
