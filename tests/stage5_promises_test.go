@@ -102,10 +102,7 @@ func TestWhatIsKeptComesToTheSame(t *testing.T) {
 	differ := 0
 	for range 4000 {
 		kind := []int{impl.StepSet, impl.StepCopy, impl.StepIn, impl.StepTest, impl.StepSkip}[d.roll(5)]
-		s := d.alike(1).Steps[0]
-		if len(s.Next) != 1 || s.Kind != kind {
-			s = d.step(kind, 1)
-		}
+		s := d.step(kind, 1)
 		e := impl.Expr{Op: 1 + d.roll(4), A: d.alikeOpnd(), B: d.alikeOpnd()}
 		p := reckonedAround(s, e)
 		var in []int
@@ -113,10 +110,10 @@ func TestWhatIsKeptComesToTheSame(t *testing.T) {
 			in = append(in, d.roll(impl.ProgNum))
 		}
 		r := impl.RunOf(p, in, impl.RunMax)
-		if r.Code != impl.RunEnded || len(r.Outs) < 2 {
+		if r.Code != impl.RunEnded || len(r.Outs) != 2 {
 			t.Fatalf("%v: %v", p, r)
 		}
-		same := r.Outs[0] == r.Outs[len(r.Outs)-1]
+		same := r.Outs[0] == r.Outs[1]
 		if !same {
 			differ++
 		}
