@@ -49,8 +49,13 @@ func opByWrap(op int, a, b uint16) uint16 {
 	return 0
 }
 
-// story is all that happens with that input, as far as 600 steps, and how it ends; it goes from node to node, and knows no other bound.
+// story is all that happens with that input, as far as 600 steps, and how it ends.
 func story(p impl.Prog, in []int) ([]event, int) {
+	return watched(p, in, func(place int, value func(o impl.Opnd) uint16) {})
+}
+
+// watched is a story of which each step is looked at ahead of being done: its place, and what operands are. It goes from node to node, and knows no other bound.
+func watched(p impl.Prog, in []int, look func(place int, value func(o impl.Opnd) uint16)) ([]event, int) {
 	nodes := nodesOf(p)
 	vars := map[int]uint16{}
 	value := func(o impl.Opnd) uint16 {
@@ -64,6 +69,7 @@ func story(p impl.Prog, in []int) ([]event, int) {
 	for n := nodes[0]; len(events) < 600; {
 		s := n.step
 		now := event{place: slices.Index(nodes, n)}
+		look(now.place, value)
 		if s.Kind == impl.StepOut {
 			now.outs = []int{int(value(s.A))}
 		}

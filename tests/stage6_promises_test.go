@@ -152,13 +152,7 @@ func TestNothingAheadOfTheFirstStep(t *testing.T) {
 func TestWhatCannotBeComeToDoesNotMatter(t *testing.T) {
 	d := &dice{state: 67}
 	greatMovers(2, impl.ProgMax-6, 2, func(p impl.Prog, e impl.Expr) {
-		q := cloneProg(p)
-		for range 1 + d.roll(6) {
-			if len(q.Steps) < impl.ProgMax {
-				q.Steps = append(q.Steps, impl.Step{Kind: impl.StepSkip, Next: []int{d.roll(len(p.Steps))}})
-			}
-		}
-		q = d.aboutBehind(q, e, len(p.Steps))
+		q := d.strayed(p, e)
 		before, after := safeOf(p, e).rows(), safeOf(q, e).rows()
 		for i := range before {
 			if !slices.Equal(after[i][:len(p.Steps)], before[i]) || slices.Contains(after[i][len(p.Steps):], true) {
@@ -168,10 +162,16 @@ func TestWhatCannotBeComeToDoesNotMatter(t *testing.T) {
 	})
 }
 
-// aboutBehind has what has to do with the reckoning at the steps from a place on alone.
-func (d *dice) aboutBehind(p impl.Prog, e impl.Expr, from int) impl.Prog {
-	q := d.about(p, e, 6, 10)
-	copy(q.Steps, cloneProg(p).Steps[:from])
+// strayed has some steps more at the end, if there is room, that cannot be come to, lead to the others, and have to do with the reckoning.
+func (d *dice) strayed(p impl.Prog, e impl.Expr) impl.Prog {
+	q := cloneProg(p)
+	for range 1 + d.roll(6) {
+		if len(q.Steps) < impl.ProgMax {
+			q.Steps = append(q.Steps, impl.Step{Kind: impl.StepSkip, Next: []int{d.roll(len(p.Steps))}})
+		}
+	}
+	q = d.about(q, e, 6, 10)
+	copy(q.Steps, cloneProg(p).Steps)
 	return q
 }
 
