@@ -300,16 +300,36 @@ func ProgRead(text string) (Prog, bool) {
 	if len(text) > ProgText {
 		return Prog{}, false
 	}
-	c := &cursor{rest: text}
 	var p Prog
-	for c.nextLine() {
-		p.Steps = append(p.Steps, readForm(c.word).step())
+	for _, line := range linesOf(text) {
+		p.Steps = append(p.Steps, stepOf(line))
 	}
-	// Reading is lenient with blanks, zeros, signs and what stands behind: the text must be just what the program is written as.
+	return readBack(p, text)
+}
+
+// readBack is a program that was read from a text line by line; false, if the text is not just what it is written as.
+func readBack(p Prog, text string) (Prog, bool) {
+	// Reading is lenient with blanks, zeros, signs and what stands behind: all that shows when the program is written.
 	if !ProgOk(p) || ProgWrite(p) != text {
 		return Prog{}, false
 	}
 	return p, true
+}
+
+// linesOf is the lines of a text that a newline ends.
+func linesOf(text string) []string {
+	c := &cursor{rest: text}
+	var lines []string
+	for c.nextLine() {
+		lines = append(lines, c.line)
+	}
+	return lines
+}
+
+// stepOf reads a line as a step; of words that make no step it is one that fits nowhere, or is written otherwise.
+func stepOf(line string) Step {
+	c := &cursor{line: line}
+	return readForm(c.word).step()
 }
 
 // cursor goes through a text line by line, and through a line word by word.
